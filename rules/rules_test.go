@@ -1,0 +1,164 @@
+package rules
+
+import (
+	"bytes"
+	"go/ast"
+	"go/format"
+	"go/importer"
+	"go/parser"
+	"go/token"
+	"go/types"
+	"os"
+	"path/filepath"
+	"slices"
+	"strconv"
+	"strings"
+	"testing"
+)
+
+// layers are the packages of the map, in its order: each may call those ahead of it.
+const layers = "api text lines addr place frame disk wal box deed store part coord wire bag head date mime glob query view smtp imap cluster flat"
+
+// library are the packages of the library that the program may import.
+const library = " bytes cmp container/heap errors iter maps math math/bits slices sort strconv strings sync sync/atomic unicode unicode/utf8 "
+
+// someLines is how many lines a function may have: "some 60".
+const someLines = 66
+
+// source is a file of the program, without its tests.
+type source struct {
+	path string
+	text []byte
+	file *ast.File
+}
+
+// sources are a layer's files, and where they stand.
+func sources(t *testing.T, layer string) (*token.FileSet, []source) {
+	t.Helper()
+	all, err := os.ReadDir(filepath.Join("..", layer))
+	if err != nil {
+		t.Fatal(err)
+	}
+	set, l := token.NewFileSet(), []source{}
+	for _, f := range all {
+		path := filepath.Join("..", layer, f.Name())
+		if strings.HasSuffix(path, "_test.go") || f.IsDir() {
+			continue
+		}
+		if !strings.HasSuffix(path, ".go") {
+			t.Errorf("%s is no Go file", path)
+			continue
+		}
+		text, err := os.ReadFile(path)
+		if err != nil {
+			t.Fatal(err)
+		}
+		file, err := parser.ParseFile(set, path, text, parser.ParseComments)
+		if err != nil {
+			t.Fatal(err)
+		}
+		l = append(l, source{path, text, file})
+	}
+	if len(l) == 0 {
+		t.Fatalf("the layer %s is not there", layer)
+	}
+	return set, l
+}
+
+// LANGUAGE 1, and the map: what each layer imports.
+func TestImports(t *testing.T) {
+	names := strings.Fields(layers)
+	for number, layer := range names {
+		_, l := sources(t, layer)
+		for _, s := range l {
+			for _, i := range s.file.Imports {
+				path, _ := strconv.Unquote(i.Path.Value)
+				own, ours := strings.CutPrefix(path, "pigeonhole/")
+				if ours && slices.Index(names, own) >= number {
+					t.Errorf("%s calls %s, which is not ahead of it", s.path, own)
+				}
+				if !ours && !strings.Contains(library, " "+path+" ") {
+					t.Errorf("%s imports %s", s.path, path)
+				}
+			}
+		}
+	}
+}
+
+// LANGUAGE 2 and 9: no line for the compiler, gofmt's layout, functions of some 60 lines.
+func TestLayout(t *testing.T) {
+	for layer := range strings.FieldsSeq(layers) {
+		set, l := sources(t, layer)
+		for _, s := range l {
+			if f, err := format.Source(s.text); err != nil || !bytes.Equal(f, s.text) {
+				t.Errorf("%s is not as gofmt lays it", s.path)
+			}
+			for _, g := range s.file.Comments {
+				for _, c := range g.List {
+					if strings.HasPrefix(c.Text, "//go:") || strings.HasPrefix(c.Text, "// +build") {
+						t.Errorf("%s has %s", s.path, c.Text)
+					}
+				}
+			}
+			for _, d := range s.file.Decls {
+				if n := set.Position(d.End()).Line - set.Position(d.Pos()).Line + 1; n > someLines {
+					if f, ok := d.(*ast.FuncDecl); ok {
+						t.Errorf("%s: %s has %d lines", s.path, f.Name.Name, n)
+					}
+				}
+			}
+		}
+	}
+}
+
+// The section Ways: what the packages of each stage that has landed lean on.
+func TestWays(t *testing.T) {
+	for _, c := range []struct{ layers, ways string }{
+		{"text", "range-string rune"},
+		{"lines", "label three-index"},
+	} {
+		got := map[string]bool{}
+		for layer := range strings.FieldsSeq(c.layers) {
+			look(t, layer, got)
+		}
+		for way := range strings.FieldsSeq(c.ways) {
+			if !got[way] {
+				t.Errorf("%s has no %s", c.layers, way)
+			}
+		}
+	}
+}
+
+// look adds the ways that a layer has to got.
+func look(t *testing.T, layer string, got map[string]bool) {
+	t.Helper()
+	set, l := sources(t, layer)
+	files := []*ast.File{}
+	for _, s := range l {
+		files = append(files, s.file)
+	}
+	info := &types.Info{Types: map[ast.Expr]types.TypeAndValue{}, Defs: map[*ast.Ident]types.Object{}}
+	c := types.Config{Importer: importer.ForCompiler(set, "source", nil)}
+	if _, err := c.Check("pigeonhole/"+layer, set, files, info); err != nil {
+		t.Fatal(err)
+	}
+	for _, f := range files {
+		ast.Inspect(f, func(n ast.Node) bool {
+			switch x := n.(type) {
+			case *ast.LabeledStmt:
+				got["label"] = true
+			case *ast.SliceExpr:
+				got["three-index"] = got["three-index"] || x.Slice3
+			case *ast.RangeStmt:
+				if b, ok := info.Types[x.X].Type.Underlying().(*types.Basic); ok && b.Info()&types.IsString != 0 {
+					got["range-string"] = true
+				}
+			case *ast.Ident:
+				if v, ok := info.Defs[x].(*types.Var); ok && v.Type() == types.Universe.Lookup("rune").Type() {
+					got["rune"] = true
+				}
+			}
+			return true
+		})
+	}
+}
