@@ -116,6 +116,8 @@ func TestWays(t *testing.T) {
 	for _, c := range []struct{ layers, ways string }{
 		{"text", "range-string rune"},
 		{"lines", "label three-index"},
+		{"addr", "range-string rune iota"},
+		{"place", "map closure"},
 	} {
 		got := map[string]bool{}
 		for layer := range strings.FieldsSeq(c.layers) {
@@ -137,7 +139,7 @@ func look(t *testing.T, layer string, got map[string]bool) {
 	for _, s := range l {
 		files = append(files, s.file)
 	}
-	info := &types.Info{Types: map[ast.Expr]types.TypeAndValue{}, Defs: map[*ast.Ident]types.Object{}}
+	info := &types.Info{Types: map[ast.Expr]types.TypeAndValue{}, Defs: map[*ast.Ident]types.Object{}, Uses: map[*ast.Ident]types.Object{}}
 	c := types.Config{Importer: importer.ForCompiler(set, "source", nil)}
 	if _, err := c.Check("pigeonhole/"+layer, set, files, info); err != nil {
 		t.Fatal(err)
@@ -147,6 +149,10 @@ func look(t *testing.T, layer string, got map[string]bool) {
 			switch x := n.(type) {
 			case *ast.LabeledStmt:
 				got["label"] = true
+			case *ast.MapType:
+				got["map"] = true
+			case *ast.FuncLit:
+				got["closure"] = true
 			case *ast.SliceExpr:
 				got["three-index"] = got["three-index"] || x.Slice3
 			case *ast.RangeStmt:
@@ -156,6 +162,9 @@ func look(t *testing.T, layer string, got map[string]bool) {
 			case *ast.Ident:
 				if v, ok := info.Defs[x].(*types.Var); ok && v.Type() == types.Universe.Lookup("rune").Type() {
 					got["rune"] = true
+				}
+				if info.Uses[x] == types.Universe.Lookup("iota") {
+					got["iota"] = true
 				}
 			}
 			return true
