@@ -118,6 +118,8 @@ func TestWays(t *testing.T) {
 		{"lines", "label three-index"},
 		{"addr", "range-string rune iota"},
 		{"place", "map closure"},
+		{"frame", "closure variadic"},
+		{"disk", "array copy"},
 	} {
 		got := map[string]bool{}
 		for layer := range strings.FieldsSeq(c.layers) {
@@ -153,6 +155,10 @@ func look(t *testing.T, layer string, got map[string]bool) {
 				got["map"] = true
 			case *ast.FuncLit:
 				got["closure"] = true
+			case *ast.Ellipsis:
+				got["variadic"] = got["variadic"] || x.Elt != nil
+			case *ast.ArrayType:
+				got["array"] = got["array"] || x.Len != nil
 			case *ast.SliceExpr:
 				got["three-index"] = got["three-index"] || x.Slice3
 			case *ast.RangeStmt:
@@ -163,8 +169,10 @@ func look(t *testing.T, layer string, got map[string]bool) {
 				if v, ok := info.Defs[x].(*types.Var); ok && v.Type() == types.Universe.Lookup("rune").Type() {
 					got["rune"] = true
 				}
-				if info.Uses[x] == types.Universe.Lookup("iota") {
-					got["iota"] = true
+				for _, word := range []string{"iota", "copy"} {
+					if info.Uses[x] == types.Universe.Lookup(word) {
+						got[word] = true
+					}
 				}
 			}
 			return true
