@@ -120,6 +120,8 @@ func TestWays(t *testing.T) {
 		{"place", "map closure"},
 		{"frame", "closure variadic"},
 		{"disk", "array copy"},
+		{"wal", "range-function three-index"},
+		{"box", "closure iota"},
 	} {
 		got := map[string]bool{}
 		for layer := range strings.FieldsSeq(c.layers) {
@@ -162,8 +164,11 @@ func look(t *testing.T, layer string, got map[string]bool) {
 			case *ast.SliceExpr:
 				got["three-index"] = got["three-index"] || x.Slice3
 			case *ast.RangeStmt:
-				if b, ok := info.Types[x.X].Type.Underlying().(*types.Basic); ok && b.Info()&types.IsString != 0 {
-					got["range-string"] = true
+				switch over := info.Types[x.X].Type.Underlying().(type) {
+				case *types.Basic:
+					got["range-string"] = got["range-string"] || over.Info()&types.IsString != 0
+				case *types.Signature:
+					got["range-function"] = true
 				}
 			case *ast.Ident:
 				if v, ok := info.Defs[x].(*types.Var); ok && v.Type() == types.Universe.Lookup("rune").Type() {
