@@ -122,6 +122,8 @@ func TestWays(t *testing.T) {
 		{"disk", "array copy"},
 		{"wal", "range-function three-index"},
 		{"box", "closure iota"},
+		{"deed", "panic recover defer assertion"},
+		{"store", "map delete fallthrough"},
 	} {
 		got := map[string]bool{}
 		for layer := range strings.FieldsSeq(c.layers) {
@@ -153,6 +155,12 @@ func look(t *testing.T, layer string, got map[string]bool) {
 			switch x := n.(type) {
 			case *ast.LabeledStmt:
 				got["label"] = true
+			case *ast.DeferStmt:
+				got["defer"] = true
+			case *ast.TypeAssertExpr:
+				got["assertion"] = got["assertion"] || x.Type != nil
+			case *ast.BranchStmt:
+				got["fallthrough"] = got["fallthrough"] || x.Tok == token.FALLTHROUGH
 			case *ast.MapType:
 				got["map"] = true
 			case *ast.FuncLit:
@@ -174,7 +182,7 @@ func look(t *testing.T, layer string, got map[string]bool) {
 				if v, ok := info.Defs[x].(*types.Var); ok && v.Type() == types.Universe.Lookup("rune").Type() {
 					got["rune"] = true
 				}
-				for _, word := range []string{"iota", "copy"} {
+				for _, word := range []string{"iota", "copy", "panic", "recover", "delete"} {
 					if info.Uses[x] == types.Universe.Lookup(word) {
 						got[word] = true
 					}
