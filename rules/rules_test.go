@@ -124,6 +124,8 @@ func TestWays(t *testing.T) {
 		{"box", "closure iota"},
 		{"deed", "panic recover defer assertion"},
 		{"store", "map delete fallthrough"},
+		{"part", "map struct-compared interface type-switch"},
+		{"coord", "array closure"},
 	} {
 		got := map[string]bool{}
 		for layer := range strings.FieldsSeq(c.layers) {
@@ -161,8 +163,17 @@ func look(t *testing.T, layer string, got map[string]bool) {
 				got["assertion"] = got["assertion"] || x.Type != nil
 			case *ast.BranchStmt:
 				got["fallthrough"] = got["fallthrough"] || x.Tok == token.FALLTHROUGH
+			case *ast.TypeSwitchStmt:
+				got["type-switch"] = true
+			case *ast.InterfaceType:
+				got["interface"] = got["interface"] || len(x.Methods.List) > 0
 			case *ast.MapType:
 				got["map"] = true
+			case *ast.IndexExpr:
+				if m, ok := info.Types[x.X].Type.Underlying().(*types.Map); ok {
+					_, by := m.Key().Underlying().(*types.Struct)
+					got["struct-compared"] = got["struct-compared"] || by
+				}
 			case *ast.FuncLit:
 				got["closure"] = true
 			case *ast.Ellipsis:
