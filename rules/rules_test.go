@@ -126,6 +126,8 @@ func TestWays(t *testing.T) {
 		{"store", "map delete fallthrough"},
 		{"part", "map struct-compared interface type-switch"},
 		{"coord", "array closure"},
+		{"wire", "fallthrough embedding promoted"},
+		{"bag", "copy range-integer"},
 	} {
 		got := map[string]bool{}
 		for layer := range strings.FieldsSeq(c.layers) {
@@ -147,7 +149,10 @@ func look(t *testing.T, layer string, got map[string]bool) {
 	for _, s := range l {
 		files = append(files, s.file)
 	}
-	info := &types.Info{Types: map[ast.Expr]types.TypeAndValue{}, Defs: map[*ast.Ident]types.Object{}, Uses: map[*ast.Ident]types.Object{}}
+	info := &types.Info{
+		Types: map[ast.Expr]types.TypeAndValue{}, Defs: map[*ast.Ident]types.Object{}, Uses: map[*ast.Ident]types.Object{},
+		Selections: map[*ast.SelectorExpr]*types.Selection{},
+	}
 	c := types.Config{Importer: importer.ForCompiler(set, "source", nil)}
 	if _, err := c.Check("pigeonhole/"+layer, set, files, info); err != nil {
 		t.Fatal(err)
@@ -174,6 +179,13 @@ func look(t *testing.T, layer string, got map[string]bool) {
 					_, by := m.Key().Underlying().(*types.Struct)
 					got["struct-compared"] = got["struct-compared"] || by
 				}
+			case *ast.StructType:
+				for _, f := range x.Fields.List {
+					got["embedding"] = got["embedding"] || len(f.Names) == 0
+				}
+			case *ast.SelectorExpr:
+				s := info.Selections[x]
+				got["promoted"] = got["promoted"] || s != nil && len(s.Index()) > 1
 			case *ast.FuncLit:
 				got["closure"] = true
 			case *ast.Ellipsis:
@@ -186,6 +198,7 @@ func look(t *testing.T, layer string, got map[string]bool) {
 				switch over := info.Types[x.X].Type.Underlying().(type) {
 				case *types.Basic:
 					got["range-string"] = got["range-string"] || over.Info()&types.IsString != 0
+					got["range-integer"] = got["range-integer"] || over.Info()&types.IsInteger != 0
 				case *types.Signature:
 					got["range-function"] = true
 				}
