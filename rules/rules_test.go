@@ -128,6 +128,8 @@ func TestWays(t *testing.T) {
 		{"coord", "array closure"},
 		{"wire", "fallthrough embedding promoted"},
 		{"bag", "copy range-integer"},
+		{"head", "closure label"},
+		{"date", "embedding promoted"},
 	} {
 		got := map[string]bool{}
 		for layer := range strings.FieldsSeq(c.layers) {
