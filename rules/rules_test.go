@@ -130,6 +130,8 @@ func TestWays(t *testing.T) {
 		{"bag", "copy range-integer"},
 		{"head", "closure label"},
 		{"date", "embedding promoted"},
+		{"mime", "closure panic recover defer"},
+		{"glob", "label"},
 	} {
 		got := map[string]bool{}
 		for layer := range strings.FieldsSeq(c.layers) {
