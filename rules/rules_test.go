@@ -132,6 +132,8 @@ func TestWays(t *testing.T) {
 		{"date", "embedding promoted"},
 		{"mime", "closure panic recover defer"},
 		{"glob", "label"},
+		{"query", "three-index panic recover defer assertion"},
+		{"view", "array label"},
 	} {
 		got := map[string]bool{}
 		for layer := range strings.FieldsSeq(c.layers) {
